@@ -131,8 +131,12 @@ func isCapital(c byte) bool {
 	return c >= 'A' && c <= 'Z'
 }
 
+func isSmall(c byte) bool {
+	return c >= 'a' && c <= 'z'
+}
+
 func isLetter(c byte) bool {
-	return isCapital(c) || c >= 'a' && c <= 'z'
+	return isCapital(c) || isSmall(c)
 }
 
 func isDigit(c byte) bool {

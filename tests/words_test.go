@@ -14,13 +14,18 @@ const atomBytes = "ABCDEFGHIJKLMNOPQRSTUVWXYZabcdefghijklmnopqrstuvwxyz012345678
 
 // stringsOver returns all strings over an alphabet up to a length.
 func stringsOver(alphabet string, length int) []string {
+	return stringsOf(strings.Split(alphabet, ""), length)
+}
+
+// stringsOf returns all strings of up to a number of pieces.
+func stringsOf(pieces []string, number int) []string {
 	all := []string{""}
 	last := all
-	for range length {
+	for range number {
 		var next []string
 		for _, s := range last {
-			for i := range len(alphabet) {
-				next = append(next, s+alphabet[i:i+1])
+			for _, piece := range pieces {
+				next = append(next, s+piece)
 			}
 		}
 		all = append(all, next...)
